@@ -98,6 +98,9 @@ func (d *dice) sight(c api.Chain) (api.Sight, bool) {
 
 func (d *dice) lever() api.Lever {
 	low := 1 + d.upTo(20)
+	if d.upTo(3) == 0 {
+		low = 1 + d.upTo(2)
+	}
 	return lever(1+d.upTo(100), low, low+d.upTo(4))
 }
 
@@ -234,6 +237,7 @@ func edges() []api.Proof {
 	halves := api.Machine{Levers: []api.Lever{lever(1, 2, 2)}} // 9 pulls 4 and a half
 	thirds := api.Machine{Levers: []api.Lever{lever(2, 3, 3)}}
 	two := api.Machine{Levers: []api.Lever{lever(1, 1, 2)}}
+	fair := api.Machine{Levers: []api.Lever{lever(1, 1, 1), lever(1, 1, 2)}}
 	gaps := api.Machine{Levers: []api.Lever{lever(7, 1, 3), lever(7, 1, 3), lever(7, 1, 3)}, Balances: []api.Balance{balance(4, 0, 343, 0), balance(8, 0, 343, 0)}, Wrong: 1}
 	l := []api.Proof{
 		{Rule: 1}, // a cable without links, and no trials
@@ -261,7 +265,7 @@ func edges() []api.Proof {
 		tied(1), tied(2), tied(3),
 	}
 	for need := range 8 {
-		for _, m := range []api.Machine{{}, halves, thirds, two} {
+		for _, m := range []api.Machine{{}, halves, thirds, two, fair} {
 			for rule := range 3 {
 				p := plain(need, rule+1, trial(7, 0, 0), trial(8, 0, 1), trial(9, 0, -1))
 				p.Machine = m

@@ -404,6 +404,71 @@ func TestBalances(t *testing.T) {
 	}
 }
 
+// shortArms yields all lists of at most 3 levers with short arms of a few spans.
+func shortArms(yield func([]api.Lever) bool) {
+	shorts := []api.Span{span(1, 1), span(1, 2), span(2, 2), span(2, 3), span(1, 4)}
+	lists := [][]api.Lever{nil}
+	for range api.MaxLevers + 1 {
+		var longer [][]api.Lever
+		for _, l := range lists {
+			if !yield(l) {
+				return
+			}
+			for _, s := range shorts {
+				longer = append(longer, append(slices.Clone(l), lever(1, s.Low, s.High)))
+			}
+		}
+		lists = longer
+	}
+}
+
+// P6.2 to P6.13: whichever levers surely have the short arm 1, or another one, with balances and without.
+func TestShortArms(t *testing.T) {
+	many, unsure := 0, 0
+	for levers := range shortArms {
+		for kind := range 12 {
+			p := plain([3]int{2, 4, 6}[kind/4], 1, trial(12, 0, 0), trial(24, 0, -1))
+			p.Machine.Levers = levers
+			if off := 4 * (kind%4 - 1); off >= 0 {
+				p.Machine.Balances = []api.Balance{balance(12, 0, 6, off)}
+				p.Machine.Wrong = off / 8
+			}
+			f, want := learn(t, p), modelFacts(p)
+			if !f.equal(want) {
+				t.Errorf("%+v: %+v, not %+v", p, f, want)
+			}
+			many++
+			if f.condemned == api.Perhaps {
+				unsure++
+			}
+		}
+	}
+	if many != 12*(1+5+25+125) || unsure < 400 {
+		t.Errorf("%d proofs, of which %d are unsure", many, unsure)
+	}
+}
+
+// P6.5 to P6.11: the order of the levers changes nothing.
+func TestOrderOfLevers(t *testing.T) {
+	changed := 0
+	files(func(p api.Proof, d *dice) {
+		q := clone(p)
+		for i := range q.Machine.Levers {
+			j := d.upTo(i + 1)
+			q.Machine.Levers[i], q.Machine.Levers[j] = q.Machine.Levers[j], q.Machine.Levers[i]
+		}
+		if f, g := learn(t, p), learn(t, q); !f.equal(g) {
+			t.Errorf("%+v: %+v, in another order %+v", p, f, g)
+		}
+		if !equal(p, q) {
+			changed++
+		}
+	})
+	if changed < 100 {
+		t.Errorf("only %d times the order was another one", changed)
+	}
+}
+
 // P6.11: Worth is from 0 to MaxLoad, and there is none if no need is little enough.
 func TestWorth(t *testing.T) {
 	strong := api.Machine{Levers: slices.Repeat([]api.Lever{lever(1000, 1, 1)}, 3), Water: 9999}

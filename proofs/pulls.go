@@ -1,7 +1,6 @@
 package proofs
 
 import (
-	"math"
 	"slices"
 
 	"shackle/api"
@@ -75,7 +74,7 @@ func (f file) ends(p products, leak int) (least, greatest int, found bool) {
 	// As products grow, a balance becomes right as soon as the load is no more than the most it can be, and it is right
 	// as long as the load is at least the least it can be. So the least product of a truth is the first one at all, or
 	// the first one with which some balance has become right; and the greatest one likewise, from the other end.
-	starts, stops := []int{1}, []int{math.MaxInt}
+	starts, stops := []int{p.least()}, []int{p.greatest()}
 	for _, b := range f.Machine.Balances {
 		force := f.force(leak, b.Weight, b.Minutes)
 		if most := b.Load + b.Off; most > 0 {
@@ -85,7 +84,7 @@ func (f file) ends(p products, leak int) (least, greatest int, found bool) {
 			stops = append(stops, force/least)
 		}
 	}
-	least = math.MaxInt
+	least = p.greatest()
 	for i := range starts {
 		if n, ok := p.from(starts[i]); ok && f.isTruth(setting{leak, n}) {
 			least, found = min(least, n), true
@@ -150,6 +149,14 @@ func pairsOf(a, b api.Span) []int {
 		}
 	}
 	return list
+}
+
+func (p products) least() int {
+	return p.arms.Low * p.pairs[0]
+}
+
+func (p products) greatest() int {
+	return p.arms.High * p.pairs[len(p.pairs)-1]
 }
 
 // from returns the least product that is at least n, if there is one.
